@@ -265,15 +265,15 @@ func TestEulerOf(t *testing.T) {
 		m     impl.Mesh
 		euler int64
 	}{
-		"empty":               {impl.Mesh{}, 0},
-		"places alone":        {meshOf(64), 0},
-		"one triangle":        {meshOf(3, tri(0, 1, 2)), 1},
-		"places that no has":  {meshOf(9, tri(7, 1, 4)), 1},
-		"two pieces":          {meshOf(6, tri(0, 1, 2), tri(3, 4, 5)), 2},
-		"two at one place":    {meshOf(5, tri(0, 1, 2), tri(2, 3, 4)), 1},
-		"the same twice":      {meshOf(3, tri(0, 1, 2), tri(0, 1, 2)), 2},
-		"a fan of 62":         {fan(62), 1},
-		"the same, 128 times": {meshOf(3, repeat(tri(0, 1, 2), 128)...), 128},
+		"empty":                {impl.Mesh{}, 0},
+		"places alone":         {meshOf(64), 0},
+		"one triangle":         {meshOf(3, tri(0, 1, 2)), 1},
+		"places that none has": {meshOf(9, tri(7, 1, 4)), 1},
+		"two pieces":           {meshOf(6, tri(0, 1, 2), tri(3, 4, 5)), 2},
+		"two at one place":     {meshOf(5, tri(0, 1, 2), tri(2, 3, 4)), 1},
+		"the same twice":       {meshOf(3, tri(0, 1, 2), tri(0, 1, 2)), 2},
+		"a fan of 62":          {fan(62), 1},
+		"the same, 128 times":  {meshOf(3, repeat(tri(0, 1, 2), 128)...), 128},
 	}
 	for what, c := range cases {
 		euler, ok := impl.EulerOf(c.m)
