@@ -77,34 +77,47 @@ func whole(m impl.Mesh) string {
 	return text
 }
 
+// wantUntouched asks that functions leave a mesh as it is, and tell the same of equal meshes.
+func wantUntouched(t *testing.T, i int, m impl.Mesh, calls []meshCall) {
+	t.Helper()
+	argument := spare(m)
+	before := whole(argument)
+	for _, call := range calls {
+		what := fmt.Sprintf("%s of mesh %d", call.name, i)
+		twice(t, what, func() string { return call.tell(argument) })
+		if after := whole(argument); after != before {
+			t.Fatalf("%s changes it from %s to %s", what, before, after)
+		}
+		if got, fresh := call.tell(argument), call.tell(m); got != fresh {
+			t.Errorf("%s: %s, but %s with other capacity", what, got, fresh)
+		}
+	}
+}
+
+// wantFailures asks that functions fail for all invalid meshes.
+func wantFailures(t *testing.T, calls []meshCall) {
+	t.Helper()
+	for i, m := range invalidMeshes() {
+		for _, call := range calls {
+			if got := call.tell(m); got != call.failed {
+				t.Errorf("%s of the invalid mesh %d: %s", call.name, i, got)
+			}
+		}
+	}
+}
+
 func TestFunctionsOfMeshesLeaveTheirArguments(t *testing.T) {
 	for i, m := range append(validMeshes(), invalidMeshes()...) {
 		calls := meshCalls()
 		for _, place := range []int64{math.MinInt64, -1, 0, 1, 2, 63, 64, math.MaxInt64} {
 			calls = append(calls, placeCalls(place)...)
 		}
-		for _, call := range calls {
-			argument := spare(m)
-			before := whole(argument)
-			twice(t, fmt.Sprintf("%s of mesh %d", call.name, i), func() string { return call.tell(argument) })
-			if after := whole(argument); after != before {
-				t.Errorf("%s changes mesh %d from %s to %s", call.name, i, before, after)
-			}
-			if got, fresh := call.tell(argument), call.tell(m); got != fresh {
-				t.Errorf("%s of mesh %d: %s, but %s with other capacity", call.name, i, got, fresh)
-			}
-		}
+		wantUntouched(t, i, m, calls)
 	}
 }
 
 func TestFunctionsOfMeshesFailForInvalidOnes(t *testing.T) {
-	for i, m := range invalidMeshes() {
-		for _, call := range append(meshCalls(), placeCalls(0)...) {
-			if got := call.tell(m); got != call.failed {
-				t.Errorf("%s of the invalid mesh %d: %s", call.name, i, got)
-			}
-		}
-	}
+	wantFailures(t, append(meshCalls(), placeCalls(0)...))
 	for i, m := range validMeshes() {
 		for _, call := range meshCalls() {
 			full := strings.HasPrefix(call.name, "JoinMeshes ") && len(m.Places) > 61

@@ -30,30 +30,11 @@ func gasCalls() []meshCall {
 func TestFunctionsOfGasesLeaveTheirArguments(t *testing.T) {
 	meshes := append(append(oddMeshes(), invalidMeshes()...), append(closedMeshes(), openMeshes()...)...)
 	for i, m := range meshes {
-		argument := spare(m)
-		before := whole(argument)
-		for _, call := range gasCalls() {
-			what := fmt.Sprintf("%s of mesh %d", call.name, i)
-			twice(t, what, func() string { return call.tell(argument) })
-			if after := whole(argument); after != before {
-				t.Fatalf("%s changes it from %s to %s", what, before, after)
-			}
-			if got, fresh := call.tell(argument), call.tell(m); got != fresh {
-				t.Errorf("%s: %s, but %s with other capacity", what, got, fresh)
-			}
-		}
+		wantUntouched(t, i, m, gasCalls())
 	}
 }
 
-func TestFunctionsOfGasesFailForInvalidMeshes(t *testing.T) {
-	for i, m := range invalidMeshes() {
-		for _, call := range gasCalls() {
-			if got := call.tell(m); got != call.failed {
-				t.Errorf("%s of the invalid mesh %d: %s", call.name, i, got)
-			}
-		}
-	}
-}
+func TestFunctionsOfGasesFailForInvalidMeshes(t *testing.T) { wantFailures(t, gasCalls()) }
 
 // spareHeld copies a mesh and its holds so that each list has unused capacity.
 func spareHeld(h heldMesh) heldMesh {
