@@ -145,7 +145,25 @@ func TestResultsShareNoMemoryWithBodies(t *testing.T) {
 	}
 }
 
-// TestListsOfABodyShareNoMemory spoils each list of a result and looks at the others.
+// wantListsApart spoils each list of a body and looks at the others, and at the next result.
+func wantListsApart(t *testing.T, what string, call func() impl.Body) {
+	t.Helper()
+	kept, spoiled := call(), call()
+	triangles := spoiled.Mesh.Triangles
+	for i := range triangles {
+		spoil(append(triangles[i], 7, 7, 7))
+		spoil(triangles[i])
+		want(t, fmt.Sprintf("%s, triangles behind %d", what, i), triangles[i+1:], kept.Mesh.Triangles[i+1:])
+	}
+	spoil(spoiled.Mesh.Places)
+	want(t, what+", springs", spoiled.Springs, kept.Springs)
+	want(t, what+", weights", spoiled.Weights, kept.Weights)
+	spoil(spoiled.Springs)
+	want(t, what+", weights again", spoiled.Weights, kept.Weights)
+	spoil(spoiled.Weights)
+	want(t, what+" again", call(), kept)
+}
+
 func TestListsOfABodyShareNoMemory(t *testing.T) {
 	ball, _ := impl.BallMesh(1, 2)
 	results := map[string]func() impl.Body{
@@ -154,19 +172,7 @@ func TestListsOfABodyShareNoMemory(t *testing.T) {
 		"SpringEdges": func() impl.Body { return first(impl.SpringEdges(ball, 1)) },
 	}
 	for what, call := range results {
-		kept, spoiled := call(), call()
-		triangles := spoiled.Mesh.Triangles
-		for i := range triangles {
-			spoil(append(triangles[i], 7, 7, 7))
-			spoil(triangles[i])
-			want(t, fmt.Sprintf("%s, triangles behind %d", what, i), triangles[i+1:], kept.Mesh.Triangles[i+1:])
-		}
-		spoil(spoiled.Mesh.Places)
-		want(t, what+", springs", spoiled.Springs, kept.Springs)
-		want(t, what+", weights", spoiled.Weights, kept.Weights)
-		spoil(spoiled.Springs)
-		want(t, what+", weights again", spoiled.Weights, kept.Weights)
-		want(t, what+" again", call(), kept)
+		wantListsApart(t, what, call)
 	}
 	kept, _ := impl.HingesOf(ball)
 	spoiled, _ := impl.HingesOf(ball)

@@ -44,21 +44,27 @@ func spareHeldBody(h heldBody) heldBody {
 
 func wholeHeldBody(h heldBody) string { return wholeBody(h.b) + told(h.held[:cap(h.held)]) }
 
+// wantBodyUntouched asks that functions leave a body and its held places as they are, and tell the same of equal ones.
+func wantBodyUntouched(t *testing.T, i int, h heldBody, calls []heldCall) {
+	t.Helper()
+	argument := spareHeldBody(h)
+	before := wholeHeldBody(argument)
+	for _, call := range calls {
+		what := told(call.name, "of body", i)
+		twice(t, what, func() string { return call.tell(argument) })
+		if after := wholeHeldBody(argument); after != before {
+			t.Fatalf("%s changes its arguments from %s to %s", what, before, after)
+		}
+		if got, fresh := call.tell(argument), call.tell(h); got != fresh {
+			t.Errorf("%s: %s, but %s with other capacity", what, got, fresh)
+		}
+	}
+}
+
 func TestFunctionsOfDescentLeaveTheirArguments(t *testing.T) {
 	for i, h := range append(append(validHeldBodies(), anyHeldBodies()[:100]...), invalidHeldBodies()...) {
-		argument := spareHeldBody(h)
-		before := wholeHeldBody(argument)
 		for _, x := range []float32{0.2, float32(i), oddNumbers()[i%len(oddNumbers())]} {
-			for _, call := range descentCalls(x, int64(i%5)) {
-				what := told(call.name, "of body", i, x)
-				twice(t, what, func() string { return call.tell(argument) })
-				if after := wholeHeldBody(argument); after != before {
-					t.Fatalf("%s changes its arguments from %s to %s", what, before, after)
-				}
-				if got, fresh := call.tell(argument), call.tell(h); got != fresh {
-					t.Errorf("%s: %s, but %s with other capacity", what, got, fresh)
-				}
-			}
+			wantBodyUntouched(t, i, h, descentCalls(x, int64(i%5)))
 		}
 	}
 }
