@@ -194,6 +194,28 @@ func TestResultsShareNoMemoryWithMeshes(t *testing.T) {
 
 func first[A, B any](a A, _ B) A { return a }
 
+// wantRowsApart spoils each of some lists and looks at the next ones, which must stay as they are kept.
+func wantRowsApart(t *testing.T, what string, spoiled, kept [][]int64) {
+	t.Helper()
+	for i := range spoiled {
+		spoil(append(spoiled[i], 7, 7, 7, 7))
+		spoil(spoiled[i])
+		if told(spoiled[i+1:]) != told(kept[i+1:]) {
+			t.Fatalf("%s: list %d shares memory with the next ones", what, i)
+		}
+	}
+}
+
+// wantMeshApart spoils each list of a mesh and looks at the others, and at the next result.
+func wantMeshApart(t *testing.T, what string, call func() impl.Mesh) {
+	t.Helper()
+	kept, spoiled := call(), call()
+	wantRowsApart(t, what, spoiled.Triangles, kept.Triangles)
+	want(t, what+", places", spoiled.Places, kept.Places)
+	spoil(spoiled.Places)
+	want(t, what+" again", call(), kept)
+}
+
 // TestListsOfAResultShareNoMemory spoils each list of a result and looks at the others.
 func TestListsOfAResultShareNoMemory(t *testing.T) {
 	lists := map[string]func() [][]int64{}
@@ -211,13 +233,7 @@ func TestListsOfAResultShareNoMemory(t *testing.T) {
 	lists["round ball"] = func() [][]int64 { return first(impl.BallMesh(1, 1)).Triangles }
 	for what, call := range lists {
 		kept, spoiled := call(), call()
-		for i := range spoiled {
-			spoil(append(spoiled[i], 7, 7, 7))
-			spoil(spoiled[i])
-			if i+1 < len(spoiled) && told(spoiled[i+1:]) != told(kept[i+1:]) {
-				t.Fatalf("%s: list %d shares memory with the next ones", what, i)
-			}
-		}
+		wantRowsApart(t, what, spoiled, kept)
 		want(t, what+" again", call(), kept)
 	}
 }

@@ -149,12 +149,7 @@ func TestResultsShareNoMemoryWithBodies(t *testing.T) {
 func wantListsApart(t *testing.T, what string, call func() impl.Body) {
 	t.Helper()
 	kept, spoiled := call(), call()
-	triangles := spoiled.Mesh.Triangles
-	for i := range triangles {
-		spoil(append(triangles[i], 7, 7, 7))
-		spoil(triangles[i])
-		want(t, fmt.Sprintf("%s, triangles behind %d", what, i), triangles[i+1:], kept.Mesh.Triangles[i+1:])
-	}
+	wantRowsApart(t, what+", triangles", spoiled.Mesh.Triangles, kept.Mesh.Triangles)
 	spoil(spoiled.Mesh.Places)
 	want(t, what+", springs", spoiled.Springs, kept.Springs)
 	want(t, what+", weights", spoiled.Weights, kept.Weights)
@@ -176,11 +171,7 @@ func TestListsOfABodyShareNoMemory(t *testing.T) {
 	}
 	kept, _ := impl.HingesOf(ball)
 	spoiled, _ := impl.HingesOf(ball)
-	for i := range spoiled {
-		spoil(append(spoiled[i], 7, 7, 7, 7))
-		spoil(spoiled[i])
-		want(t, fmt.Sprintf("hinges behind %d", i), spoiled[i+1:], kept[i+1:])
-	}
+	wantRowsApart(t, "hinges", spoiled, kept)
 }
 
 func TestForcesOfABodyAreNewEachTime(t *testing.T) {

@@ -144,15 +144,7 @@ func TestListsOfAHeldMeshShareNoMemory(t *testing.T) {
 		"KeepVolume": func() impl.Mesh { return first(impl.KeepVolume(box, 3)) },
 	}
 	for what, call := range results {
-		kept, spoiled := call(), call()
-		for i := range spoiled.Triangles {
-			spoil(append(spoiled.Triangles[i], 7, 7, 7))
-			spoil(spoiled.Triangles[i])
-			want(t, fmt.Sprintf("%s, triangles behind %d", what, i), spoiled.Triangles[i+1:], kept.Triangles[i+1:])
-		}
-		want(t, what+", places", spoiled.Places, kept.Places)
-		spoil(spoiled.Places)
-		want(t, what+" again", call(), kept)
+		wantMeshApart(t, what, call)
 	}
 	lists := func() string {
 		return told(impl.HoldForces(h.m, h.holds, make([]impl.Vector, 6))) + told(impl.FreePlaces(h.m, h.holds)) +

@@ -119,16 +119,7 @@ func TestMendedMeshesShareNoMemoryWithOthers(t *testing.T) {
 func TestListsOfAMendedMeshShareNoMemory(t *testing.T) {
 	for i, m := range []impl.Mesh{bentGrid(), mixedBody().Mesh, forms()[3], closedMeshes()[5], someSheets(9)[8]} {
 		for what, call := range mendedMeshes(m) {
-			kept, spoiled := call(), call()
-			triangles := spoiled.Triangles
-			for j := range triangles {
-				spoil(append(triangles[j], 7, 7, 7))
-				spoil(triangles[j])
-				want(t, told(what, "of mesh", i, "triangles behind", j), triangles[j+1:], kept.Triangles[j+1:])
-			}
-			want(t, told(what, "of mesh", i, "places"), spoiled.Places, kept.Places)
-			spoil(spoiled.Places)
-			want(t, told(what, "of mesh", i, "again"), call(), kept)
+			wantMeshApart(t, told(what, "of mesh", i), call)
 		}
 	}
 }

@@ -147,9 +147,5 @@ func TestListsOfWorkersAreNewEachTime(t *testing.T) {
 		want(t, "forces again", told(forces()), keptForces)
 	}
 	shares, again := first(impl.SharesOf(100, 8)), first(impl.SharesOf(100, 8))
-	for i := range shares {
-		spoil(append(shares[i], 7, 7))
-		spoil(shares[i])
-		want(t, named("shares behind", i), shares[i+1:], again[i+1:])
-	}
+	wantRowsApart(t, "shares", shares, again)
 }
