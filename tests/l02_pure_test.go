@@ -9,12 +9,14 @@ import (
 	"loop.example/g01222/impl"
 )
 
-// meshCall tells what a function makes of a mesh, and what it tells if it fails.
-type meshCall struct {
+// callOf tells what a function makes of an argument, and what it tells if it fails.
+type callOf[T any] struct {
 	name   string
-	tell   func(m impl.Mesh) string
+	tell   func(argument T) string
 	failed string
 }
+
+type meshCall = callOf[impl.Mesh]
 
 const (
 	noLists = "[] false "
@@ -77,21 +79,26 @@ func whole(m impl.Mesh) string {
 	return text
 }
 
-// wantUntouched asks that functions leave a mesh as it is, and tell the same of equal meshes.
-func wantUntouched(t *testing.T, i int, m impl.Mesh, calls []meshCall) {
+// wantLeft asks that functions leave an argument as it is, with all that its lists could hold, and tell the same of an equal one.
+func wantLeft[T any](t *testing.T, what string, argument, equal T, whole func(T) string, calls []callOf[T]) {
 	t.Helper()
-	argument := spare(m)
 	before := whole(argument)
 	for _, call := range calls {
-		what := fmt.Sprintf("%s of mesh %d", call.name, i)
-		twice(t, what, func() string { return call.tell(argument) })
+		name := call.name + " of " + what
+		twice(t, name, func() string { return call.tell(argument) })
 		if after := whole(argument); after != before {
-			t.Fatalf("%s changes it from %s to %s", what, before, after)
+			t.Fatalf("%s changes it from %s to %s", name, before, after)
 		}
-		if got, fresh := call.tell(argument), call.tell(m); got != fresh {
-			t.Errorf("%s: %s, but %s with other capacity", what, got, fresh)
+		if got, fresh := call.tell(argument), call.tell(equal); got != fresh {
+			t.Errorf("%s: %s, but %s with other capacity", name, got, fresh)
 		}
 	}
+}
+
+// wantUntouched asks for this with a mesh.
+func wantUntouched(t *testing.T, i int, m impl.Mesh, calls []meshCall) {
+	t.Helper()
+	wantLeft(t, named("mesh", i), spare(m), m, whole, calls)
 }
 
 // wantFailures asks that functions fail for all invalid meshes.

@@ -8,12 +8,7 @@ import (
 	"loop.example/g01222/impl"
 )
 
-// bodyCall tells what a function makes of a body, and what it tells if it fails.
-type bodyCall struct {
-	name   string
-	tell   func(b impl.Body) string
-	failed string
-}
+type bodyCall = callOf[impl.Body]
 
 const (
 	noBody   = "{{[] []} [] 0 0 [] {0 0 0}} false "
@@ -47,18 +42,7 @@ func TestFunctionsOfBodiesLeaveTheirArguments(t *testing.T) {
 		for _, index := range []int64{math.MinInt64, -1, 0, 2, 3, 63, math.MaxInt64} {
 			calls = append(calls, bodyCalls(index)...)
 		}
-		argument := spareBody(b)
-		before := wholeBody(argument)
-		for _, call := range calls {
-			what := fmt.Sprintf("%s of body %d", call.name, i)
-			twice(t, what, func() string { return call.tell(argument) })
-			if got, fresh := call.tell(argument), call.tell(b); got != fresh {
-				t.Errorf("%s: %s, but %s with other capacity", what, got, fresh)
-			}
-			if after := wholeBody(argument); after != before {
-				t.Fatalf("%s changes it from %s to %s", what, before, after)
-			}
-		}
+		wantLeft(t, named("body", i), spareBody(b), b, wholeBody, calls)
 	}
 }
 

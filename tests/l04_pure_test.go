@@ -45,28 +45,18 @@ func wholeHeld(h heldMesh) string { return whole(h.m) + told(h.holds[:cap(h.hold
 
 func TestFunctionsOfHoldsLeaveTheirArguments(t *testing.T) {
 	for i, h := range append(validHeld(), invalidHeld()...) {
-		argument := spareHeld(h)
 		forces := append(make([]impl.Vector, 0, len(h.m.Places)+3), manyForces(h.m)...)
-		before := wholeHeld(argument) + told(forces[:cap(forces)])
-		calls := map[string]func(h heldMesh) string{
-			"AreHolds":   func(h heldMesh) string { return told(impl.AreHolds(h.m, h.holds)) },
-			"HoldForces": func(h heldMesh) string { return told(impl.HoldForces(h.m, h.holds, forces)) },
-			"HoldMesh":   func(h heldMesh) string { return told(impl.HoldMesh(h.m, h.holds)) },
-			"OffHolds":   func(h heldMesh) string { return told(impl.OffHolds(h.m, h.holds)) },
-			"FreePlaces": func(h heldMesh) string { return told(impl.FreePlaces(h.m, h.holds)) },
-			"TorqueOf":   func(h heldMesh) string { return told(impl.TorqueOf(h.m, forces)) },
-			"NetForce":   func(heldMesh) string { return told(impl.NetForce(forces)) },
+		wholeArguments := func(h heldMesh) string { return wholeHeld(h) + told(forces[:cap(forces)]) }
+		calls := []callOf[heldMesh]{
+			{name: "AreHolds", tell: func(h heldMesh) string { return told(impl.AreHolds(h.m, h.holds)) }},
+			{name: "HoldForces", tell: func(h heldMesh) string { return told(impl.HoldForces(h.m, h.holds, forces)) }},
+			{name: "HoldMesh", tell: func(h heldMesh) string { return told(impl.HoldMesh(h.m, h.holds)) }},
+			{name: "OffHolds", tell: func(h heldMesh) string { return told(impl.OffHolds(h.m, h.holds)) }},
+			{name: "FreePlaces", tell: func(h heldMesh) string { return told(impl.FreePlaces(h.m, h.holds)) }},
+			{name: "TorqueOf", tell: func(h heldMesh) string { return told(impl.TorqueOf(h.m, forces)) }},
+			{name: "NetForce", tell: func(heldMesh) string { return told(impl.NetForce(forces)) }},
 		}
-		for name, call := range calls {
-			what := fmt.Sprintf("%s of mesh %d", name, i)
-			twice(t, what, func() string { return call(argument) })
-			if after := wholeHeld(argument) + told(forces[:cap(forces)]); after != before {
-				t.Fatalf("%s changes its arguments from %s to %s", what, before, after)
-			}
-			if got, fresh := call(argument), call(h); got != fresh {
-				t.Errorf("%s: %s, but %s with other capacity", what, got, fresh)
-			}
-		}
+		wantLeft(t, named("mesh with holds", i), spareHeld(h), h, wholeArguments, calls)
 	}
 }
 

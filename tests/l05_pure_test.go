@@ -8,12 +8,7 @@ import (
 	"loop.example/g01222/impl"
 )
 
-// heldCall tells what a function makes of a body with held places, and what it tells if it fails.
-type heldCall struct {
-	name   string
-	tell   func(h heldBody) string
-	failed string
-}
+type heldCall = callOf[heldBody]
 
 // descentCalls call all functions of chapter 5 that take a body, with some number and some rounds.
 func descentCalls(x float32, rounds int64) []heldCall {
@@ -47,18 +42,7 @@ func wholeHeldBody(h heldBody) string { return wholeBody(h.b) + told(h.held[:cap
 // wantBodyUntouched asks that functions leave a body and its held places as they are, and tell the same of equal ones.
 func wantBodyUntouched(t *testing.T, i int, h heldBody, calls []heldCall) {
 	t.Helper()
-	argument := spareHeldBody(h)
-	before := wholeHeldBody(argument)
-	for _, call := range calls {
-		what := told(call.name, "of body", i)
-		twice(t, what, func() string { return call.tell(argument) })
-		if after := wholeHeldBody(argument); after != before {
-			t.Fatalf("%s changes its arguments from %s to %s", what, before, after)
-		}
-		if got, fresh := call.tell(argument), call.tell(h); got != fresh {
-			t.Errorf("%s: %s, but %s with other capacity", what, got, fresh)
-		}
-	}
+	wantLeft(t, named("held body", i), spareHeldBody(h), h, wholeHeldBody, calls)
 }
 
 func TestFunctionsOfDescentLeaveTheirArguments(t *testing.T) {
@@ -101,30 +85,19 @@ func TestFunctionsOfMotionsLeaveTheirArguments(t *testing.T) {
 		list = append(list, d.motionOf(b, d.number), d.motionOf(b, func() float32 { return odd[d.below(len(odd))] }))
 	}
 	for i, m := range list {
-		argument := spareMotion(m)
 		held := append(make([]int64, 0, 70), d.some(m.Body, 3)...)
-		tell := func() string {
-			return wholeBody(argument.Body) + told(argument.Speeds[:cap(argument.Speeds)], held[:cap(held)])
+		wholeArguments := func(m impl.Motion) string {
+			return wholeBody(m.Body) + told(m.Speeds[:cap(m.Speeds)], held[:cap(held)])
 		}
-		before := tell()
 		s := swing{held, 0.5, 0.9, 0.2}
-		calls := map[string]func(m impl.Motion) string{
-			"ValidMotion": func(m impl.Motion) string { return told(impl.ValidMotion(m)) },
-			"StillMotion": func(m impl.Motion) string { return told(impl.StillMotion(m.Body)) },
-			"SpeedEnergy": func(m impl.Motion) string { return told(impl.SpeedEnergy(m, 0.7)) },
-			"StepMotion":  func(m impl.Motion) string { return told(s.step(m)) },
-			"RunMotion":   func(m impl.Motion) string { return told(s.run(m, int64(i%4))) },
+		calls := []callOf[impl.Motion]{
+			{name: "ValidMotion", tell: func(m impl.Motion) string { return told(impl.ValidMotion(m)) }},
+			{name: "StillMotion", tell: func(m impl.Motion) string { return told(impl.StillMotion(m.Body)) }},
+			{name: "SpeedEnergy", tell: func(m impl.Motion) string { return told(impl.SpeedEnergy(m, 0.7)) }},
+			{name: "StepMotion", tell: func(m impl.Motion) string { return told(s.step(m)) }},
+			{name: "RunMotion", tell: func(m impl.Motion) string { return told(s.run(m, int64(i%4))) }},
 		}
-		for name, call := range calls {
-			what := fmt.Sprintf("%s of motion %d", name, i)
-			twice(t, what, func() string { return call(argument) })
-			if after := tell(); after != before {
-				t.Fatalf("%s changes its arguments from %s to %s", what, before, after)
-			}
-			if got, fresh := call(argument), call(m); got != fresh {
-				t.Errorf("%s: %s, but %s with other capacity", what, got, fresh)
-			}
-		}
+		wantLeft(t, named("motion", i), spareMotion(m), m, wholeArguments, calls)
 	}
 }
 
