@@ -291,7 +291,18 @@ func TestSweepsAtTheSameTime(t *testing.T) {
 	group.Wait()
 }
 
-// TestNoWorkerIsLeftBehind counts goroutines. Those that have done their last step may need a moment to vanish.
+// wantNoneBehind asks that there are no more goroutines than before. Those that have done their last step may need a moment to vanish.
+func wantNoneBehind(t *testing.T, what string, before int) {
+	t.Helper()
+	for range 1000 {
+		if runtime.NumGoroutine() <= before {
+			return
+		}
+		time.Sleep(time.Millisecond)
+	}
+	t.Fatalf("%s leaves %d goroutines behind", what, runtime.NumGoroutine()-before)
+}
+
 func TestNoWorkerIsLeftBehind(t *testing.T) {
 	before := runtime.NumGoroutine()
 	for i, b := range slices.Concat(largeBodies(), invalidBodies()[:5], []impl.Body{{}}) {
@@ -299,14 +310,6 @@ func TestNoWorkerIsLeftBehind(t *testing.T) {
 			impl.SweepShared(b, nil, 2, workers)
 			impl.ForcesShared(b, workers)
 		}
-		for range 1000 {
-			if runtime.NumGoroutine() <= before {
-				break
-			}
-			time.Sleep(time.Millisecond)
-		}
-		if now := runtime.NumGoroutine(); now > before {
-			t.Fatalf("body %d leaves %d goroutines behind", i, now-before)
-		}
+		wantNoneBehind(t, named("body", i), before)
 	}
 }
